@@ -7,6 +7,8 @@ import (
 	"strings"
 	"testing"
 	"time"
+
+	"gatepost/trial"
 )
 
 const (
@@ -353,17 +355,8 @@ func TestParseByteByByte(t *testing.T) {
 		for i := range len(s) + 1 {
 			check(s[:i])
 			check(s[i:])
-			for c := range 256 {
-				b := string([]byte{byte(c)})
-				check(s[:i] + b + s[i:])
-				if i < len(s) {
-					check(s[:i] + b + s[i+1:])
-				}
-			}
-			if i < len(s) {
-				check(s[:i] + s[i+1:])
-			}
 		}
+		trial.Changed(s, check)
 	}
 }
 

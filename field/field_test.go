@@ -7,6 +7,7 @@ import (
 	"testing"
 
 	"gatepost/api"
+	"gatepost/trial"
 )
 
 // lineForm is a field's line as the chapter tells it, in characters that are a byte each (see wide).
@@ -15,81 +16,11 @@ var lineForm = regexp.MustCompile("^([!#$%&'*+.^_`|~0-9A-Za-z-]+):[\t ]*((?:[!-~
 // seven are the names that are for one connection alone, as the chapter writes them.
 var seven = []string{"Connection", "Keep-Alive", "Proxy-Connection", "TE", "Trailer", "Transfer-Encoding", "Upgrade"}
 
-// wide makes a text of bytes one of characters, a byte each, so that a pattern sees bytes; narrow is the way back.
-func wide(s string) string {
-	r := make([]rune, len(s))
-	for i := range len(s) {
-		r[i] = rune(s[i])
-	}
-	return string(r)
-}
-
-func narrow(s string) string {
-	var b []byte
-	for _, r := range s {
-		b = append(b, byte(r))
-	}
-	return string(b)
-}
-
-// oneByte is the text of one byte (string(c) would be a character's).
-func oneByte(c int) string { return string([]byte{byte(c)}) }
-
-// changed hands a text to a function, and each that has one byte changed, added or taken away.
-func changed(s string, see func(string)) {
-	see(s)
-	for i := range len(s) + 1 {
-		for c := range 256 {
-			see(s[:i] + oneByte(c) + s[i:])
-			if i < len(s) {
-				see(s[:i] + oneByte(c) + s[i+1:])
-			}
-		}
-		if i < len(s) {
-			see(s[:i] + s[i+1:])
-		}
-	}
-}
-
-// fields makes a list of names and values that take turns.
-func fields(parts ...string) []api.Field {
-	var l []api.Field
-	for i := 0; i < len(parts); i += 2 {
-		l = append(l, api.Field{Name: parts[i], Value: parts[i+1]})
-	}
-	return l
-}
-
-// lists hands every list of at most so many of the fields to a function.
-func lists(of []api.Field, most int, see func([]api.Field)) {
-	var all func(l []api.Field, more int)
-	all = func(l []api.Field, more int) {
-		see(l)
-		for _, f := range of {
-			if more > 0 {
-				all(append(slices.Clone(l), f), more-1)
-			}
-		}
-	}
-	all(nil, most)
-}
-
-// small is the plain reading of letters: those of ASCII alone.
-func small(s string) string {
-	b := []byte(s)
-	for i := range b {
-		if strings.IndexByte("ABCDEFGHIJKLMNOPQRSTUVWXYZ", b[i]) >= 0 {
-			b[i] += 32
-		}
-	}
-	return string(b)
-}
-
 // others is the plain reading of what is left without some names.
 func others(l []api.Field, names ...string) []api.Field {
 	var left []api.Field
 	for _, f := range l {
-		if !slices.ContainsFunc(names, func(name string) bool { return small(name) == small(f.Name) }) {
+		if !slices.ContainsFunc(names, func(name string) bool { return trial.Small(name) == trial.Small(f.Name) }) {
 			left = append(left, f)
 		}
 	}
@@ -100,7 +31,7 @@ func others(l []api.Field, names ...string) []api.Field {
 func values(l []api.Field, name string) []string {
 	var found []string
 	for _, f := range l {
-		if small(f.Name) == small(name) {
+		if trial.Small(f.Name) == trial.Small(name) {
 			found = append(found, f.Value)
 		}
 	}
@@ -111,7 +42,7 @@ func values(l []api.Field, name string) []string {
 // also when what the function tells has been written over, its spare room too.
 func untouched(t *testing.T, l []api.Field, do func([]api.Field) []api.Field) {
 	t.Helper()
-	room := append(append(make([]api.Field, 0, len(l)+3), l...), fields("Spare", "1", "Spare", "2", "Spare", "3")...)
+	room := append(append(make([]api.Field, 0, len(l)+3), l...), trial.Fields("Spare", "1", "Spare", "2", "Spare", "3")...)
 	before := slices.Clone(room)
 	told := do(room[:len(l)])
 	if !slices.Equal(room, before) {
@@ -167,12 +98,12 @@ func areNames(t *testing.T, l []api.Field, name string, want []string, wantOk bo
 // asParsed holds Parse of any text against the pattern.
 func asParsed(t *testing.T, s string) {
 	t.Helper()
-	m := lineForm.FindStringSubmatch(wide(s))
+	m := lineForm.FindStringSubmatch(trial.Wide(s))
 	if m == nil {
 		isParsed(t, s, api.Field{}, api.ErrField)
 		return
 	}
-	isParsed(t, s, api.Field{Name: narrow(m[1]), Value: narrow(m[2])}, api.OK)
+	isParsed(t, s, api.Field{Name: trial.Narrow(m[1]), Value: trial.Narrow(m[2])}, api.OK)
 }
 
 func TestParse(t *testing.T) {
@@ -214,7 +145,7 @@ func TestParseOfNone(t *testing.T) {
 
 func TestParseOfChangedBytes(t *testing.T) {
 	for _, s := range []string{"Age: 5", "a:", "a:b", "A-b:\t c \td\x80 ", ":", "a", "a b", "a : b", "a:b:c", "x:\xff", ""} {
-		changed(s, func(s string) { asParsed(t, s) })
+		trial.Changed(s, func(s string) { asParsed(t, s) })
 	}
 }
 
@@ -258,7 +189,7 @@ func TestLine(t *testing.T) {
 }
 
 func TestLineOfNone(t *testing.T) {
-	for _, f := range fields(
+	for _, f := range trial.Fields(
 		"", "", "", "5", " ", "5", "Age ", "5", " Age", "5", "A ge", "5", "Age:", "5", "Age\t", "5", "Ag\x80", "5", "Age\x7f", "5", "Age\x00", "5", "Age\n", "5",
 		"Age", " ", "Age", "\t", "Age", " 5", "Age", "5 ", "Age", "\t5", "Age", "5\t", "Age", "5\x00", "Age", "5\x7f", "Age", "\x7f", "Age", "5\r", "Age", "5\r\nX: 6", "Age", "5\x1f6",
 		"A ge", " 5",
@@ -271,8 +202,8 @@ func TestLineOfNone(t *testing.T) {
 func asLine(t *testing.T, f api.Field) {
 	t.Helper()
 	s := f.Name + ": " + f.Value
-	m := lineForm.FindStringSubmatch(wide(s))
-	if m == nil || narrow(m[1]) != f.Name || narrow(m[2]) != f.Value {
+	m := lineForm.FindStringSubmatch(trial.Wide(s))
+	if m == nil || trial.Narrow(m[1]) != f.Name || trial.Narrow(m[2]) != f.Value {
 		isLine(t, f, "", api.ErrField)
 		return
 	}
@@ -281,7 +212,7 @@ func asLine(t *testing.T, f api.Field) {
 
 func TestLineOfChangedBytes(t *testing.T) {
 	for _, s := range []string{"", "a", "Ab-", "5", "b c", "b\t\xff"} {
-		changed(s, func(s string) {
+		trial.Changed(s, func(s string) {
 			asLine(t, api.Field{Name: s, Value: "v"})
 			asLine(t, api.Field{Name: "n", Value: s})
 		})
@@ -291,7 +222,7 @@ func TestLineOfChangedBytes(t *testing.T) {
 // P4.2
 
 func TestGet(t *testing.T) {
-	l := fields("A", "1", "b", "x", "a", "2", "C", "", "B", "y z", "A", "", "a", "3", "c", "", "A-b", "4")
+	l := trial.Fields("A", "1", "b", "x", "a", "2", "C", "", "B", "y z", "A", "", "a", "3", "c", "", "A-b", "4")
 	for _, c := range []struct {
 		name, want string
 		n          int
@@ -315,7 +246,7 @@ func TestGet(t *testing.T) {
 
 // Fields and names that no line could tell are compared and handed on as they are.
 func TestGetDelSetAskNothingOfBytes(t *testing.T) {
-	l := fields("", "1", " ", "2", "\xc4", "3", "\xe4", "4", "\u212a", "5", "k", "6", "[", "7", "{", "8", "@", "9", "`", "10", "a\x00", " \n ")
+	l := trial.Fields("", "1", " ", "2", "\xc4", "3", "\xe4", "4", "\u212a", "5", "k", "6", "[", "7", "{", "8", "@", "9", "`", "10", "a\x00", " \n ")
 	for name, want := range map[string]string{
 		"": "1", " ": "2", "\xc4": "3", "\xe4": "4", "\u212a": "5", "K": "6", "[": "7", "{": "8", "@": "9", "`": "10", "A\x00": " \n ",
 	} {
@@ -329,32 +260,32 @@ func TestGetDelSetAskNothingOfBytes(t *testing.T) {
 }
 
 func TestDel(t *testing.T) {
-	l := fields("A", "1", "b", "x", "a", "2", "C", "", "B", "y")
-	isList(t, "Del a", Del(l, "a"), fields("b", "x", "C", "", "B", "y"))
-	isList(t, "Del A", Del(l, "A"), fields("b", "x", "C", "", "B", "y"))
-	isList(t, "Del B", Del(l, "B"), fields("A", "1", "a", "2", "C", ""))
-	isList(t, "Del c", Del(l, "c"), fields("A", "1", "b", "x", "a", "2", "B", "y"))
+	l := trial.Fields("A", "1", "b", "x", "a", "2", "C", "", "B", "y")
+	isList(t, "Del a", Del(l, "a"), trial.Fields("b", "x", "C", "", "B", "y"))
+	isList(t, "Del A", Del(l, "A"), trial.Fields("b", "x", "C", "", "B", "y"))
+	isList(t, "Del B", Del(l, "B"), trial.Fields("A", "1", "a", "2", "C", ""))
+	isList(t, "Del c", Del(l, "c"), trial.Fields("A", "1", "b", "x", "a", "2", "B", "y"))
 	isList(t, "Del d", Del(l, "d"), l)
 	isList(t, "Del of no name", Del(l, ""), l)
 	isList(t, "Del of none", Del(nil, "a"), nil)
 	isList(t, "Del of an empty list", Del([]api.Field{}, "a"), nil)
-	isList(t, "Del of all", Del(fields("a", "1", "A", "2"), "a"), nil)
-	isList(t, "Del of what Connection is to Strip", Del(fields("Connection", "b", "b", "1", "TE", "2"), "connection"), fields("b", "1", "TE", "2"))
+	isList(t, "Del of all", Del(trial.Fields("a", "1", "A", "2"), "a"), nil)
+	isList(t, "Del of what Connection is to Strip", Del(trial.Fields("Connection", "b", "b", "1", "TE", "2"), "connection"), trial.Fields("b", "1", "TE", "2"))
 }
 
 func TestSet(t *testing.T) {
-	l := fields("A", "1", "b", "x", "a", "2")
-	isList(t, "Set a", Set(l, "a", "3"), fields("b", "x", "a", "3"))
-	isList(t, "Set A", Set(l, "A", "3"), fields("b", "x", "A", "3"))
-	isList(t, "Set B", Set(l, "B", ""), fields("A", "1", "a", "2", "B", ""))
-	isList(t, "Set c", Set(l, "c", "3"), fields("A", "1", "b", "x", "a", "2", "c", "3"))
-	isList(t, "Set of none", Set(nil, "a", "1"), fields("a", "1"))
-	isList(t, "Set of an empty list", Set([]api.Field{}, "a", "1"), fields("a", "1"))
-	isList(t, "Set of all", Set(fields("a", "1", "A", "2"), "a", ""), fields("a", ""))
+	l := trial.Fields("A", "1", "b", "x", "a", "2")
+	isList(t, "Set a", Set(l, "a", "3"), trial.Fields("b", "x", "a", "3"))
+	isList(t, "Set A", Set(l, "A", "3"), trial.Fields("b", "x", "A", "3"))
+	isList(t, "Set B", Set(l, "B", ""), trial.Fields("A", "1", "a", "2", "B", ""))
+	isList(t, "Set c", Set(l, "c", "3"), trial.Fields("A", "1", "b", "x", "a", "2", "c", "3"))
+	isList(t, "Set of none", Set(nil, "a", "1"), trial.Fields("a", "1"))
+	isList(t, "Set of an empty list", Set([]api.Field{}, "a", "1"), trial.Fields("a", "1"))
+	isList(t, "Set of all", Set(trial.Fields("a", "1", "A", "2"), "a", ""), trial.Fields("a", ""))
 }
 
 func TestGetDelSetOfEveryShortList(t *testing.T) {
-	lists(fields("a", "1", "A", "", "b", "2, 3", "B", "4", "ab", "5"), 4, func(l []api.Field) {
+	trial.Lists(trial.Fields("a", "1", "A", "", "b", "2, 3", "B", "4", "ab", "5"), 4, func(l []api.Field) {
 		for _, name := range []string{"a", "A", "b", "Ab", "c"} {
 			found := values(l, name)
 			isGot(t, l, name, strings.Join(found, ", "), len(found))
@@ -371,18 +302,18 @@ func TestNames(t *testing.T) {
 		l    []api.Field
 		want []string
 	}{
-		{fields("N", "close, X"), []string{"close", "x"}},
-		{fields("n", "Close"), []string{"close"}},
-		{fields("N", "a", "M", "m", "n", "B", "N", "c,D"), []string{"a", "b", "c", "d"}},
-		{fields("N", " a\t,\tB ,c"), []string{"a", "b", "c"}},
-		{fields("N", ",, a ,\t, b,"), []string{"a", "b"}},
-		{fields("N", "", "N", "a", "N", ""), []string{"a"}},
-		{fields("N", "a, A, a"), []string{"a", "a", "a"}},
-		{fields("N", "!#$%&'*+-.^_`|~09AZ"), []string{"!#$%&'*+-.^_`|~09az"}},
-		{fields("N", ""), nil},
-		{fields("N", " \t"), nil},
-		{fields("N", ",, ,"), nil},
-		{fields("M", "a b"), nil},
+		{trial.Fields("N", "close, X"), []string{"close", "x"}},
+		{trial.Fields("n", "Close"), []string{"close"}},
+		{trial.Fields("N", "a", "M", "m", "n", "B", "N", "c,D"), []string{"a", "b", "c", "d"}},
+		{trial.Fields("N", " a\t,\tB ,c"), []string{"a", "b", "c"}},
+		{trial.Fields("N", ",, a ,\t, b,"), []string{"a", "b"}},
+		{trial.Fields("N", "", "N", "a", "N", ""), []string{"a"}},
+		{trial.Fields("N", "a, A, a"), []string{"a", "a", "a"}},
+		{trial.Fields("N", "!#$%&'*+-.^_`|~09AZ"), []string{"!#$%&'*+-.^_`|~09az"}},
+		{trial.Fields("N", ""), nil},
+		{trial.Fields("N", " \t"), nil},
+		{trial.Fields("N", ",, ,"), nil},
+		{trial.Fields("M", "a b"), nil},
 		{nil, nil},
 		{[]api.Field{}, nil},
 	} {
@@ -393,58 +324,58 @@ func TestNames(t *testing.T) {
 
 func TestNamesOfNone(t *testing.T) {
 	for _, l := range [][]api.Field{
-		fields("N", `"a`), fields("N", `a, "b`), fields("N", `"a\"`), fields("N", "a", "N", `b, "`),
-		fields("N", `"a"`), fields("N", `a, "b", c`), fields("N", `"a`, "n", `b"`), fields("N", `a"b"`),
-		fields("N", "a b"), fields("N", "a, b c"), fields("N", "a\tb, c"), fields("N", "a=b"), fields("N", "a;b"), fields("N", "a, b/c"),
-		fields("N", "\x80"), fields("N", "a\x00"), fields("N", "a, \x7f"), fields("N", "a\n"), fields("N", "a", "N", "b, ä"),
-		fields("N", "(", "N", "a"), fields("N", "a, b, c, d, e=f"),
+		trial.Fields("N", `"a`), trial.Fields("N", `a, "b`), trial.Fields("N", `"a\"`), trial.Fields("N", "a", "N", `b, "`),
+		trial.Fields("N", `"a"`), trial.Fields("N", `a, "b", c`), trial.Fields("N", `"a`, "n", `b"`), trial.Fields("N", `a"b"`),
+		trial.Fields("N", "a b"), trial.Fields("N", "a, b c"), trial.Fields("N", "a\tb, c"), trial.Fields("N", "a=b"), trial.Fields("N", "a;b"), trial.Fields("N", "a, b/c"),
+		trial.Fields("N", "\x80"), trial.Fields("N", "a\x00"), trial.Fields("N", "a, \x7f"), trial.Fields("N", "a\n"), trial.Fields("N", "a", "N", "b, ä"),
+		trial.Fields("N", "(", "N", "a"), trial.Fields("N", "a, b, c, d, e=f"),
 	} {
 		areNames(t, l, "n", nil, false)
-		areNames(t, append(fields("M", "m"), l...), "N", nil, false)
+		areNames(t, append(trial.Fields("M", "m"), l...), "N", nil, false)
 		areNames(t, l, "M", nil, true) // a field of that name alone counts
 	}
 }
 
 func TestNamesOfEveryByte(t *testing.T) {
 	for c := range 256 {
-		s := oneByte(c)
+		s := trial.Byte(c)
 		switch {
 		case strings.Contains("!#$%&'*+-.^_`|~0123456789ABCDEFGHIJKLMNOPQRSTUVWXYZabcdefghijklmnopqrstuvwxyz", s):
-			areNames(t, fields("N", "a"+s+"Z"), "n", []string{"a" + small(s) + "z"}, true)
+			areNames(t, trial.Fields("N", "a"+s+"Z"), "n", []string{"a" + trial.Small(s) + "z"}, true)
 		case s == ",":
-			areNames(t, fields("N", "a"+s+"Z"), "n", []string{"a", "z"}, true)
+			areNames(t, trial.Fields("N", "a"+s+"Z"), "n", []string{"a", "z"}, true)
 		default:
-			areNames(t, fields("N", "a"+s+"Z"), "n", nil, false)
+			areNames(t, trial.Fields("N", "a"+s+"Z"), "n", nil, false)
 		}
 	}
 }
 
 // What is told is the caller's own: written over, its spare room too, it changes no later answer.
 func TestNamesAreNew(t *testing.T) {
-	l := fields("N", "a, b, c")
+	l := trial.Fields("N", "a, b, c")
 	got, _ := Names(l, "N")
 	got = got[:cap(got)]
 	for i := range got {
 		got[i] = "written"
 	}
 	areNames(t, l, "N", []string{"a", "b", "c"}, true)
-	isList(t, "the list", l, fields("N", "a, b, c"))
+	isList(t, "the list", l, trial.Fields("N", "a, b, c"))
 }
 
 // P4.4
 
 func TestStrip(t *testing.T) {
 	for _, c := range []struct{ l, want []api.Field }{
-		{fields("Connection", "close, X", "X", "1", "Y", "2"), fields("Y", "2")},
-		{fields("Y", "2", "x", "1", "CONNECTION", "X", "X", "3"), fields("Y", "2")},
-		{fields("A", "1", "Connection", "b-C", "B-c", "2", "D", "3", "b-c", "4", "b", "5"), fields("A", "1", "D", "3", "b", "5")},
-		{fields("Connection", "a", "A", "1", "B", "2", "C", "3", "connection", " , C,,b "), nil},
-		{fields("Connection", "", "A", "1"), fields("A", "1")},
-		{fields("Connection", "Content-Length, Host", "Host", "h", "content-length", "1", "A", "2"), fields("A", "2")},
-		{fields("A", "1", "B", "", "a", "2"), fields("A", "1", "B", "", "a", "2")},
-		{fields("Close", "1", "Connections", "2", "Keep", "3", "Alive", "4", "T", "5", "TEE", "6", "Trailers", "7", "Transfer", "8", "Encoding", "9", "", "10"),
-			fields("Close", "1", "Connections", "2", "Keep", "3", "Alive", "4", "T", "5", "TEE", "6", "Trailers", "7", "Transfer", "8", "Encoding", "9", "", "10")},
-		{fields("Keep-Alive", "A", "TE", "A", "Trailer", "A", "Upgrade", "A", "Proxy-Connection", "A", "A", "1"), fields("A", "1")},
+		{trial.Fields("Connection", "close, X", "X", "1", "Y", "2"), trial.Fields("Y", "2")},
+		{trial.Fields("Y", "2", "x", "1", "CONNECTION", "X", "X", "3"), trial.Fields("Y", "2")},
+		{trial.Fields("A", "1", "Connection", "b-C", "B-c", "2", "D", "3", "b-c", "4", "b", "5"), trial.Fields("A", "1", "D", "3", "b", "5")},
+		{trial.Fields("Connection", "a", "A", "1", "B", "2", "C", "3", "connection", " , C,,b "), nil},
+		{trial.Fields("Connection", "", "A", "1"), trial.Fields("A", "1")},
+		{trial.Fields("Connection", "Content-Length, Host", "Host", "h", "content-length", "1", "A", "2"), trial.Fields("A", "2")},
+		{trial.Fields("A", "1", "B", "", "a", "2"), trial.Fields("A", "1", "B", "", "a", "2")},
+		{trial.Fields("Close", "1", "Connections", "2", "Keep", "3", "Alive", "4", "T", "5", "TEE", "6", "Trailers", "7", "Transfer", "8", "Encoding", "9", "", "10"),
+			trial.Fields("Close", "1", "Connections", "2", "Keep", "3", "Alive", "4", "T", "5", "TEE", "6", "Trailers", "7", "Transfer", "8", "Encoding", "9", "", "10")},
+		{trial.Fields("Keep-Alive", "A", "TE", "A", "Trailer", "A", "Upgrade", "A", "Proxy-Connection", "A", "A", "1"), trial.Fields("A", "1")},
 		{nil, nil},
 		{[]api.Field{}, nil},
 	} {
@@ -455,10 +386,10 @@ func TestStrip(t *testing.T) {
 func TestStripOfEachOfTheSeven(t *testing.T) {
 	for _, name := range seven {
 		for _, as := range []string{name, strings.ToLower(name), strings.ToUpper(name), strings.ToLower(name[:1]) + strings.ToUpper(name[1:])} {
-			isList(t, "Strip of "+as, Strip(fields("A", "1", as, "b", "C", "2", as, "", "c", "3")), fields("A", "1", "C", "2", "c", "3"))
-			isList(t, "Strip of "+as+" alone", Strip(fields(as, "b")), nil)
-			isList(t, "Strip of "+as+" and a Connection", Strip(fields("Connection", "A", as, "b", "C", "2", "a", "3")), fields("C", "2"))
-			isList(t, "Strip of "+as+"x", Strip(fields(as+"x", "1", "x"+as, "2")), fields(as+"x", "1", "x"+as, "2"))
+			isList(t, "Strip of "+as, Strip(trial.Fields("A", "1", as, "b", "C", "2", as, "", "c", "3")), trial.Fields("A", "1", "C", "2", "c", "3"))
+			isList(t, "Strip of "+as+" alone", Strip(trial.Fields(as, "b")), nil)
+			isList(t, "Strip of "+as+" and a Connection", Strip(trial.Fields("Connection", "A", as, "b", "C", "2", "a", "3")), trial.Fields("C", "2"))
+			isList(t, "Strip of "+as+"x", Strip(trial.Fields(as+"x", "1", "x"+as, "2")), trial.Fields(as+"x", "1", "x"+as, "2"))
 		}
 	}
 }
@@ -467,23 +398,23 @@ func TestStripOfEachOfTheSeven(t *testing.T) {
 func TestStripWhereConnectionNamesNone(t *testing.T) {
 	for _, bad := range []string{`"a`, `A, "b"`, "A, b c", "A, b=c", "A;", "A, \x80", "A, (", `"A"`} {
 		for _, conn := range [][]api.Field{
-			fields("Connection", bad),
-			fields("Connection", bad, "connection", "A"),
-			fields("CONNECTION", "A", "Connection", bad),
+			trial.Fields("Connection", bad),
+			trial.Fields("Connection", bad, "connection", "A"),
+			trial.Fields("CONNECTION", "A", "Connection", bad),
 		} {
-			l := append(conn, fields("A", "1", "b", "2")...)
+			l := append(conn, trial.Fields("A", "1", "b", "2")...)
 			for _, name := range seven {
-				l = append(l, fields(name, "3", strings.ToLower(name), "4")...)
+				l = append(l, trial.Fields(name, "3", strings.ToLower(name), "4")...)
 			}
 			// A, that a good element beside the wrong one names, stays too.
-			isList(t, "Strip of "+bad, Strip(append(l, fields("a", "5")...)), fields("A", "1", "b", "2", "a", "5"))
+			isList(t, "Strip of "+bad, Strip(append(l, trial.Fields("a", "5")...)), trial.Fields("A", "1", "b", "2", "a", "5"))
 		}
 	}
 }
 
 func TestStripOfEveryShortList(t *testing.T) {
-	of := fields("Connection", "A, c", "connection", "B", "Connection", "a b", "Te", "a", "a", "1", "B", "2", "C", "3", "d", "Connection")
-	lists(of, 4, func(l []api.Field) {
+	of := trial.Fields("Connection", "A, c", "connection", "B", "Connection", "a b", "Te", "a", "a", "1", "B", "2", "C", "3", "d", "Connection")
+	trial.Lists(of, 4, func(l []api.Field) {
 		named := slices.Clone(seven)
 		if text := values(l, "Connection"); !slices.Contains(text, "a b") {
 			for _, one := range text {
@@ -499,8 +430,8 @@ func TestStripOfEveryShortList(t *testing.T) {
 func TestLineIsParsedToItsField(t *testing.T) {
 	told := 0
 	for _, s := range []string{"", "a", "Ab-", "5", "b c", "b\t\xff", ":", " "} {
-		changed(s, func(s string) {
-			for _, f := range fields(s, "v", s, "", "N", s, "n", "x: "+s, "", s) {
+		trial.Changed(s, func(s string) {
+			for _, f := range trial.Fields(s, "v", s, "", "N", s, "n", "x: "+s, "", s) {
 				line, e := Line(f)
 				if e != api.OK {
 					isLine(t, f, "", api.ErrField)
@@ -519,7 +450,7 @@ func TestLineIsParsedToItsField(t *testing.T) {
 // What was parsed is told as a line that is parsed to the same.
 func TestFieldIsToldAnew(t *testing.T) {
 	for _, s := range []string{"Age:\t5 ", "a:", "a:b:c", "a:\x80 \tb"} {
-		changed(s, func(s string) {
+		trial.Changed(s, func(s string) {
 			f, e := Parse(s)
 			if e != api.OK {
 				return
@@ -534,14 +465,14 @@ func TestFieldIsToldAnew(t *testing.T) {
 }
 
 func TestGetBehindSet(t *testing.T) {
-	lists(fields("a", "1", "A", "", "b", "2", "B", "3", "c", "4"), 4, func(l []api.Field) {
+	trial.Lists(trial.Fields("a", "1", "A", "", "b", "2", "B", "3", "c", "4"), 4, func(l []api.Field) {
 		for _, name := range []string{"a", "A", "b", "C", "d"} {
 			for _, value := range []string{"", "new", "1, 2"} {
 				set := Set(l, name, value)
 				isGot(t, set, name, value, 1)
 				isList(t, "Del behind Set", Del(set, name), others(l, name))
 				for _, other := range []string{"a", "b", "c", "d"} {
-					if other != small(name) {
+					if other != trial.Small(name) {
 						found := values(l, other)
 						isGot(t, set, other, strings.Join(found, ", "), len(found))
 					}
@@ -553,8 +484,8 @@ func TestGetBehindSet(t *testing.T) {
 
 // What is handed in reads as before.
 func TestListsAreNotTouched(t *testing.T) {
-	of := fields("Connection", "X", "X", "1", "a", "2", "A", "3", "TE", "b")
-	lists(of, 4, func(l []api.Field) {
+	of := trial.Fields("Connection", "X", "X", "1", "a", "2", "A", "3", "TE", "b")
+	trial.Lists(of, 4, func(l []api.Field) {
 		for _, name := range []string{"a", "X", "d"} {
 			untouched(t, l, func(l []api.Field) []api.Field { Get(l, name); return nil })
 			untouched(t, l, func(l []api.Field) []api.Field { Names(l, name); return nil })
@@ -567,7 +498,7 @@ func TestListsAreNotTouched(t *testing.T) {
 
 // A list that was told goes its own way: what is put behind it is not seen in another one's.
 func TestListsAreTheirOwn(t *testing.T) {
-	l := fields("a", "1", "b", "2", "c", "3", "d", "4")
+	l := trial.Fields("a", "1", "b", "2", "c", "3", "d", "4")
 	for _, tell := range []func() []api.Field{
 		func() []api.Field { return Del(l, "b") },
 		func() []api.Field { return Set(l, "b", "5") },

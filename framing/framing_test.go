@@ -11,6 +11,7 @@ import (
 
 	"gatepost/api"
 	"gatepost/field"
+	"gatepost/trial"
 )
 
 const mega = 1 << 20 // MaxBody
@@ -946,27 +947,13 @@ func TestChunksOfMaxBodyAreRead(t *testing.T) {
 	}
 }
 
-// bodies hands every text of at most so many of the parts to a function.
-func bodies(parts []string, most int, see func(string)) {
-	var all func(s string, more int)
-	all = func(s string, more int) {
-		see(s)
-		for _, p := range parts {
-			if more > 0 {
-				all(s+p, more-1)
-			}
-		}
-	}
-	all("", most)
-}
-
 func TestEveryShortBody(t *testing.T) {
-	bodies([]string{"\r", "\n", "0", "2", ";", " "}, 6, func(s string) {
+	trial.Texts([]string{"\r", "\n", "0", "2", ";", " "}, 6, func(s string) {
 		p := read(Chunked, 0, s)
 		fed(t, Chunked, 0, p, s)
 		fed(t, Chunked, 0, p, single(s)...)
 	})
-	bodies([]string{"\r\n", "\n", "\r", "0\r\n", "1\nx", "2", "a:", "\x00"}, 4, func(s string) {
+	trial.Texts([]string{"\r\n", "\n", "\r", "0\r\n", "1\nx", "2", "a:", "\x00"}, 4, func(s string) {
 		chunked(t, s, read(Chunked, 0, s).out)
 		chunked(t, "1\nx"+s, read(Chunked, 0, "1\nx"+s).out)
 	})

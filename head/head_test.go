@@ -9,6 +9,7 @@ import (
 	"gatepost/api"
 	"gatepost/field"
 	"gatepost/line"
+	"gatepost/trial"
 )
 
 // outcome is what a text comes to: how many bytes are taken in all, and what is told then.
@@ -210,22 +211,13 @@ func thrice(t *testing.T, response bool, s string, want outcome) {
 	}
 }
 
-// fields makes a list of names and values that take turns.
-func fields(parts ...string) []api.Field {
-	var l []api.Field
-	for i := 0; i < len(parts); i += 2 {
-		l = append(l, api.Field{Name: parts[i], Value: parts[i+1]})
-	}
-	return l
-}
-
 // get is the head of GET /, and ok that of a response.
 func get(parts ...string) api.Request {
-	return api.Request{Method: "GET", Target: "/", Minor: 1, Fields: fields(parts...)}
+	return api.Request{Method: "GET", Target: "/", Minor: 1, Fields: trial.Fields(parts...)}
 }
 
 func ok(parts ...string) api.Response {
-	return api.Response{Minor: 1, Code: 200, Reason: "OK", Fields: fields(parts...)}
+	return api.Response{Minor: 1, Code: 200, Reason: "OK", Fields: trial.Fields(parts...)}
 }
 
 func wholeRequest(used int, q api.Request) outcome {
@@ -294,7 +286,7 @@ func TestResponse(t *testing.T) {
 		{"\n\r\nHTTP/1.1 200 OK\nb: 2\na:\nB: 1\n\n", 33, ok("b", "2", "a", "", "B", "1")},
 		{"HTTP/1.1 200 OK\r\n\r\nbody\r\n\r\n", 19, ok()},
 		{"HTTP/1.1 200 OK\n\n\n", 17, ok()},
-		{"HTTP/1.1 304 OK\nA: 1\n\nHTTP/1.1 200 OK\n\n", 22, api.Response{Minor: 1, Code: 304, Reason: "OK", Fields: fields("A", "1")}},
+		{"HTTP/1.1 304 OK\nA: 1\n\nHTTP/1.1 200 OK\n\n", 22, api.Response{Minor: 1, Code: 304, Reason: "OK", Fields: trial.Fields("A", "1")}},
 	} {
 		comes(t, true, c.s, wholeResponse(c.used, c.want))
 		thrice(t, true, c.s, wholeResponse(c.used, c.want))
@@ -542,32 +534,18 @@ func TestLongFields(t *testing.T) {
 
 // P5.3
 
-// heads hands every text of at most so many of the parts to a function.
-func heads(parts []string, most int, see func(string)) {
-	var all func(s string, more int)
-	all = func(s string, more int) {
-		see(s)
-		for _, p := range parts {
-			if more > 0 {
-				all(s+p, more-1)
-			}
-		}
-	}
-	all("", most)
-}
-
 func TestEveryShortHead(t *testing.T) {
 	for _, response := range []bool{false, true} {
 		first := "A / HTTP/1.0"
 		if response {
 			first = "HTTP/1.0 100"
 		}
-		heads([]string{"\r", "\n", first, "B:", " "}, 6, func(s string) {
+		trial.Texts([]string{"\r", "\n", first, "B:", " "}, 6, func(s string) {
 			want := read(response, s)
 			fed(t, response, want, s)
 			fed(t, response, want, single(s)...)
 		})
-		heads([]string{"\r\n", "\r", "\n", "B:"}, 4, func(s string) {
+		trial.Texts([]string{"\r\n", "\r", "\n", "B:"}, 4, func(s string) {
 			s = first + "\n" + s
 			comes(t, response, s, read(response, s))
 		})

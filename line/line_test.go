@@ -8,6 +8,7 @@ import (
 	"testing"
 
 	"gatepost/api"
+	"gatepost/trial"
 )
 
 // The chapter's lines as patterns, which these tests hold the package against.
@@ -18,28 +19,11 @@ var (
 	absolute    = regexp.MustCompile(`^[hH][tT][tT][pP]://([^/?]+)(.*)$`)
 )
 
-// wide makes a text of bytes one of characters, a byte each, so that a pattern sees bytes; narrow is the way back.
-func wide(s string) string {
-	r := make([]rune, len(s))
-	for i := range len(s) {
-		r[i] = rune(s[i])
-	}
-	return string(r)
-}
-
-func narrow(s string) string {
-	var b []byte
-	for _, r := range s {
-		b = append(b, byte(r))
-	}
-	return string(b)
-}
-
 // asRequest and asStatus hold Request and Status of any text against the patterns.
 func asRequest(t *testing.T, s string) {
 	t.Helper()
 	method, target, minor, e := Request(s)
-	m := requestForm.FindStringSubmatch(wide(s))
+	m := requestForm.FindStringSubmatch(trial.Wide(s))
 	switch {
 	case len(s) > api.MaxLine:
 		isRequest(t, s, "", "", 0, api.ErrBig, method, target, minor, e)
@@ -63,7 +47,7 @@ func isRequest(t *testing.T, s, wantMethod, wantTarget string, wantMinor int, wa
 func asStatus(t *testing.T, s string) {
 	t.Helper()
 	minor, code, reason, e := Status(s)
-	m := statusForm.FindStringSubmatch(wide(s))
+	m := statusForm.FindStringSubmatch(trial.Wide(s))
 	switch {
 	case len(s) > api.MaxLine:
 		isStatus(t, s, 0, 0, "", api.ErrBig, minor, code, reason, e)
@@ -71,7 +55,7 @@ func asStatus(t *testing.T, s string) {
 		isStatus(t, s, 0, 0, "", api.ErrLine, minor, code, reason, e)
 	default:
 		wantCode, _ := strconv.Atoi(m[2])
-		isStatus(t, s, int(m[1][0]-'0'), wantCode, strings.TrimPrefix(narrow(m[3]), " "), api.OK, minor, code, reason, e)
+		isStatus(t, s, int(m[1][0]-'0'), wantCode, strings.TrimPrefix(trial.Narrow(m[3]), " "), api.OK, minor, code, reason, e)
 		want := s
 		if m[3] == "" {
 			want += " "
@@ -86,23 +70,6 @@ func isStatus(t *testing.T, s string, wantMinor, wantCode int, wantReason string
 	t.Helper()
 	if minor != wantMinor || code != wantCode || reason != wantReason || e != wantE {
 		t.Errorf("Status(%q) = %d, %d, %q, %d, not %d, %d, %q, %d", s, minor, code, reason, e, wantMinor, wantCode, wantReason, wantE)
-	}
-}
-
-// changed hands a text to a function, and each that has one byte changed, added or taken away.
-func changed(s string, see func(string)) {
-	see(s)
-	for i := range len(s) + 1 {
-		for c := range 256 {
-			one := string([]byte{byte(c)})
-			see(s[:i] + one + s[i:])
-			if i < len(s) {
-				see(s[:i] + one + s[i+1:])
-			}
-		}
-		if i < len(s) {
-			see(s[:i] + s[i+1:])
-		}
 	}
 }
 
@@ -141,7 +108,7 @@ func TestRequestThatIsNone(t *testing.T) {
 
 func TestRequestOfChangedBytes(t *testing.T) {
 	for _, s := range []string{"GET /a HTTP/1.1", "P /?x=1 HTTP/1.0", "a * HTTP/1.1"} {
-		changed(s, func(s string) { asRequest(t, s) })
+		trial.Changed(s, func(s string) { asRequest(t, s) })
 	}
 }
 
@@ -208,7 +175,7 @@ func TestStatusOfEveryCode(t *testing.T) {
 
 func TestStatusOfChangedBytes(t *testing.T) {
 	for _, s := range []string{"HTTP/1.1 200 OK", "HTTP/1.0 503 ", "HTTP/1.1 100", "HTTP/1.1 404 Not Found"} {
-		changed(s, func(s string) { asStatus(t, s) })
+		trial.Changed(s, func(s string) { asStatus(t, s) })
 	}
 }
 
@@ -238,7 +205,7 @@ func isPath(t *testing.T, target, wantPath, wantHost string, wantOk bool) {
 // asPath holds Path against the patterns.
 func asPath(t *testing.T, target string) {
 	t.Helper()
-	if !targetForm.MatchString(wide(target)) {
+	if !targetForm.MatchString(trial.Wide(target)) {
 		isPath(t, target, "", "", false)
 		return
 	}
@@ -293,7 +260,7 @@ func TestPathOfNone(t *testing.T) {
 
 func TestPathOfChangedBytes(t *testing.T) {
 	for _, target := range []string{"/a", "*", "http://h/a", "HTTP://h?b", "http://h", "http://", "http:///", "http://?"} {
-		changed(target, func(s string) { asPath(t, s) })
+		trial.Changed(target, func(s string) { asPath(t, s) })
 	}
 }
 

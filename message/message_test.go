@@ -13,6 +13,7 @@ import (
 	"gatepost/api"
 	"gatepost/framing"
 	"gatepost/head"
+	"gatepost/trial"
 )
 
 const mega = 1 << 20 // MaxBody
@@ -220,21 +221,10 @@ func writesResponse(t *testing.T, r api.Response, body, method string, bodied bo
 	}
 }
 
-// small makes great letters of ASCII small ones.
-func small(s string) string {
-	b := []byte(s)
-	for i, c := range b {
-		if 'A' <= c && c <= 'Z' {
-			b[i] = c + 32
-		}
-	}
-	return string(b)
-}
-
 // unlengthy tells the fields that do not tell a body's length.
 func unlengthy(l []api.Field) []api.Field {
 	return slices.DeleteFunc(slices.Clone(l), func(f api.Field) bool {
-		return small(f.Name) == "content-length" || small(f.Name) == "transfer-encoding"
+		return trial.Small(f.Name) == "content-length" || trial.Small(f.Name) == "transfer-encoding"
 	})
 }
 

@@ -8,6 +8,8 @@ import (
 	"strconv"
 	"strings"
 	"testing"
+
+	"gatepost/trial"
 )
 
 // texts hands every text of at most so many of the bytes to a function.
@@ -30,9 +32,6 @@ func texts(alphabet string, most int, see func(string)) {
 	}
 }
 
-// oneByte is the text of one byte (string(c) would be a rune's).
-func oneByte(c int) string { return string([]byte{byte(c)}) }
-
 // mayQuote is the chapter's list of bytes in a quoted text, written out.
 func mayQuote(c int) bool { return c == 9 || c >= 32 && c <= 126 || c >= 128 }
 
@@ -43,7 +42,7 @@ const tokenBytes = "!#$%&'*+-.^_`|~0123456789ABCDEFGHIJKLMNOPQRSTUVWXYZabcdefghi
 func TestIsByteByByte(t *testing.T) {
 	for c := range 256 {
 		want := strings.IndexByte(tokenBytes, byte(c)) >= 0
-		for _, s := range []string{oneByte(c), "a" + oneByte(c), oneByte(c) + "a", "a" + oneByte(c) + "a"} {
+		for _, s := range []string{trial.Byte(c), "a" + trial.Byte(c), trial.Byte(c) + "a", "a" + trial.Byte(c) + "a"} {
 			if Is(s) != want {
 				t.Errorf("Is(%q) = %v", s, !want)
 			}
@@ -69,10 +68,10 @@ func TestValueByteByByte(t *testing.T) {
 	for c := range 256 {
 		isBlank := c == 32 || c == 9
 		inner := mayQuote(c)
-		if got := Value("a" + oneByte(c) + "a"); got != inner {
+		if got := Value("a" + trial.Byte(c) + "a"); got != inner {
 			t.Errorf("byte %d between: %v", c, got)
 		}
-		for _, s := range []string{oneByte(c), oneByte(c) + "a", "a" + oneByte(c)} {
+		for _, s := range []string{trial.Byte(c), trial.Byte(c) + "a", "a" + trial.Byte(c)} {
 			if got := Value(s); got != (inner && !isBlank) {
 				t.Errorf("Value(%q) = %v", s, got)
 			}
@@ -99,11 +98,11 @@ func TestLowerAndSame(t *testing.T) {
 		if c >= 65 && c <= 90 {
 			want = c + 32
 		}
-		if got := Lower("Z" + oneByte(c)); got != "z"+oneByte(want) {
+		if got := Lower("Z" + trial.Byte(c)); got != "z"+trial.Byte(want) {
 			t.Errorf("Lower of byte %d: %q", c, got)
 		}
 		for d := range 256 {
-			a, b := oneByte(c), oneByte(d)
+			a, b := trial.Byte(c), trial.Byte(d)
 			if Same("x"+a, "X"+b) != (Lower(a) == Lower(b)) {
 				t.Errorf("Same of bytes %d and %d", c, d)
 			}
@@ -266,7 +265,7 @@ func TestPairWrong(t *testing.T) {
 
 func TestPairByteByByte(t *testing.T) {
 	for c := range 256 {
-		b := oneByte(c)
+		b := trial.Byte(c)
 		plain := mayQuote(c) && c != '"' && c != '\\'
 		if _, v, _, ok := Pair(`a="x` + b + `y"`); ok != (plain || c == '\\') || plain && v != "x"+b+"y" {
 			t.Errorf("byte %d in a quoted text: %q, %v", c, v, ok)
@@ -307,12 +306,12 @@ func TestQuote(t *testing.T) {
 	for c := range 256 {
 		want := ""
 		if mayQuote(c) {
-			want = `"x` + oneByte(c) + `y"`
+			want = `"x` + trial.Byte(c) + `y"`
 		}
 		if c == '"' || c == '\\' {
-			want = `"x\` + oneByte(c) + `y"`
+			want = `"x\` + trial.Byte(c) + `y"`
 		}
-		if got, ok := Quote("x" + oneByte(c) + "y"); ok != mayQuote(c) || got != want {
+		if got, ok := Quote("x" + trial.Byte(c) + "y"); ok != mayQuote(c) || got != want {
 			t.Errorf("Quote of byte %d: %q, %v", c, got, ok)
 		}
 	}
@@ -356,7 +355,7 @@ func TestNumberWrong(t *testing.T) {
 		}
 	}
 	for c := range 256 {
-		if _, ok := Number("1"+oneByte(c), 99); ok != (c >= '0' && c <= '9') {
+		if _, ok := Number("1"+trial.Byte(c), 99); ok != (c >= '0' && c <= '9') {
 			t.Errorf("Number with byte %d: %v", c, ok)
 		}
 	}
@@ -436,8 +435,8 @@ func TestQuotedIsThePairsValue(t *testing.T) {
 	all := ""
 	for c := range 256 {
 		if mayQuote(c) {
-			see(oneByte(c))
-			all += oneByte(c)
+			see(trial.Byte(c))
+			all += trial.Byte(c)
 		}
 	}
 	see(all)

@@ -1,0 +1,101 @@
+// Package trial has what the tests of several layers share: texts and lists to try them with. No layer calls it.
+package trial
+
+import "gatepost/api"
+
+// Byte is the text of one byte (string(c) would be a character's).
+func Byte(c int) string { return string([]byte{byte(c)}) }
+
+// Wide makes a text of bytes one of characters, a byte each, so that a pattern sees bytes; Narrow is the way back.
+func Wide(s string) string {
+	r := make([]rune, len(s))
+	for i := range len(s) {
+		r[i] = rune(s[i])
+	}
+	return string(r)
+}
+
+// Narrow makes a text of characters below 256 one of bytes.
+func Narrow(s string) string {
+	var b []byte
+	for _, r := range s {
+		b = append(b, byte(r))
+	}
+	return string(b)
+}
+
+// Small is the plain reading of letters: those of ASCII alone are made small.
+func Small(s string) string {
+	b := []byte(s)
+	for i, c := range b {
+		if 'A' <= c && c <= 'Z' {
+			b[i] = c + 32
+		}
+	}
+	return string(b)
+}
+
+// Changed hands a text to a function, and each that has one byte changed, added or taken away.
+func Changed(s string, see func(string)) {
+	see(s)
+	for i := range len(s) + 1 {
+		for c := range 256 {
+			see(s[:i] + Byte(c) + s[i:])
+			if i < len(s) {
+				see(s[:i] + Byte(c) + s[i+1:])
+			}
+		}
+		if i < len(s) {
+			see(s[:i] + s[i+1:])
+		}
+	}
+}
+
+// Texts hands every text of at most so many of the parts to a function.
+func Texts(parts []string, most int, see func(string)) {
+	Lists(parts, most, func(l []string) {
+		s := ""
+		for _, part := range l {
+			s += part
+		}
+		see(s)
+	})
+}
+
+// Lists hands every list of at most so many of the things to a function, each in memory of its own.
+func Lists[T any](things []T, most int, see func([]T)) {
+	var all func(l []T, more int)
+	all = func(l []T, more int) {
+		see(append([]T(nil), l...))
+		for _, thing := range things {
+			if more > 0 {
+				all(append(l[:len(l):len(l)], thing), more-1)
+			}
+		}
+	}
+	all(nil, most)
+}
+
+// Orders hands each order of a list to a function, each in memory of its own.
+func Orders[T any](l []T, see func([]T)) {
+	var all func(done, left []T)
+	all = func(done, left []T) {
+		if len(left) == 0 {
+			see(append([]T(nil), done...))
+		}
+		for i, next := range left {
+			rest := append(append([]T(nil), left[:i]...), left[i+1:]...)
+			all(append(done[:len(done):len(done)], next), rest)
+		}
+	}
+	all(nil, l)
+}
+
+// Fields makes a list of names and values that take turns.
+func Fields(parts ...string) []api.Field {
+	var l []api.Field
+	for i := 0; i < len(parts); i += 2 {
+		l = append(l, api.Field{Name: parts[i], Value: parts[i+1]})
+	}
+	return l
+}

@@ -1,0 +1,51 @@
+package trial
+
+import (
+	"slices"
+	"testing"
+
+	"gatepost/api"
+)
+
+func TestBytes(t *testing.T) {
+	for c := range 256 {
+		b := Byte(c)
+		if len(b) != 1 || int(b[0]) != c || Narrow(Wide(b)) != b || []rune(Wide(b))[0] != rune(c) {
+			t.Errorf("%d: %q, %q", c, b, Wide(b))
+		}
+	}
+	if s := Small("@AMZ[`amz{\xc1\xe1\u00c9"); s != "@amz[`amz{\xc1\xe1\u00c9" {
+		t.Errorf("%q", s)
+	}
+}
+
+func TestChanged(t *testing.T) {
+	seen := map[string]int{}
+	Changed("ab", func(s string) { seen[s]++ })
+	if len(seen) != 1+2+2*255+3*256-2 || seen["ab"] == 0 || seen["a"] == 0 || seen["b"] == 0 || seen["a\xff"] == 0 || seen["\x00ab"] == 0 || seen["ab\x00"] == 0 {
+		t.Error(len(seen))
+	}
+}
+
+func TestLists(t *testing.T) {
+	var texts []string
+	Texts([]string{"a", "bc"}, 2, func(s string) { texts = append(texts, s) })
+	if !slices.Equal(texts, []string{"", "a", "aa", "abc", "bc", "bca", "bcbc"}) {
+		t.Errorf("%q", texts)
+	}
+	var lists, orders [][]int
+	Lists([]int{1, 2}, 2, func(l []int) { lists = append(lists, l) })
+	if !slices.EqualFunc(lists, [][]int{{}, {1}, {1, 1}, {1, 2}, {2}, {2, 1}, {2, 2}}, slices.Equal) {
+		t.Error(lists)
+	}
+	Orders([]int{1, 2, 3}, func(l []int) { orders = append(orders, l) })
+	if !slices.EqualFunc(orders, [][]int{{1, 2, 3}, {1, 3, 2}, {2, 1, 3}, {2, 3, 1}, {3, 1, 2}, {3, 2, 1}}, slices.Equal) {
+		t.Error(orders)
+	}
+}
+
+func TestFields(t *testing.T) {
+	if l := Fields("A", "1", "B", "2"); !slices.Equal(l, []api.Field{{Name: "A", Value: "1"}, {Name: "B", Value: "2"}}) || len(Fields()) != 0 {
+		t.Error(l)
+	}
+}
