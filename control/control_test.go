@@ -42,13 +42,7 @@ var (
 )
 
 // said is what is told where nothing is said, but for what the changes set.
-func said(changes ...func(*api.Control)) api.Control {
-	c := api.Control{Age: -1, Shared: -1, While: -1, IfError: -1, MinFresh: -1, MaxStale: -1}
-	for _, change := range changes {
-		change(&c)
-	}
-	return c
-}
+var said = trial.Control
 
 // names are all thirteen.
 func names() []string {
@@ -193,18 +187,16 @@ func reads(t *testing.T, s string) {
 // says asks what fields say, and looks whether they, and the room behind them, read as before.
 func says(t *testing.T, l []api.Field, want api.Control) {
 	t.Helper()
-	spare := trial.Fields("Cache-Control", "no-store", "Pragma", "no-cache", "Cache-Control", "max-age=1")
-	room := append(append(make([]api.Field, 0, len(l)+len(spare)), l...), spare...)
-	before := slices.Clone(room)
-	if c := Of(room[:len(l)]); c != want {
-		t.Errorf("Of(%q) = %+v; want %+v", l, c, want)
-	}
-	if !slices.Equal(room, before) {
-		t.Errorf("%q became %q", before, room)
+	whole := trial.Untouched(l, func(l []api.Field) []api.Field {
+		if c := Of(l); c != want {
+			t.Errorf("Of(%q) = %+v; want %+v", l, c, want)
+		}
+		return nil
+	})
+	if !whole {
+		t.Errorf("%q, or what lies behind it, was changed", l)
 	}
 }
-
-// Short ways to say what is told.
 
 func age(n int) func(*api.Control)      { return func(c *api.Control) { c.Age = n } }
 func shared(n int) func(*api.Control)   { return func(c *api.Control) { c.Shared = n } }

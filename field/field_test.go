@@ -38,22 +38,11 @@ func values(l []api.Field, name string) []string {
 	return found
 }
 
-// untouched hands a list with spare room to a function, and looks whether both read as before,
-// also when what the function tells has been written over, its spare room too.
+// untouched looks whether a list that is handed to a function reads as before.
 func untouched(t *testing.T, l []api.Field, do func([]api.Field) []api.Field) {
 	t.Helper()
-	room := append(append(make([]api.Field, 0, len(l)+3), l...), trial.Fields("Spare", "1", "Spare", "2", "Spare", "3")...)
-	before := slices.Clone(room)
-	told := do(room[:len(l)])
-	if !slices.Equal(room, before) {
-		t.Errorf("%q became %q", before, room)
-	}
-	told = told[:cap(told)]
-	for i := range told {
-		told[i] = api.Field{Name: "Written", Value: "over"}
-	}
-	if !slices.Equal(room, before) {
-		t.Errorf("what was told shares its memory with %q", before)
+	if !trial.Untouched(l, do) {
+		t.Errorf("%q, or what lies behind it, was changed, or shares its memory with what was told", l)
 	}
 }
 

@@ -19,23 +19,8 @@ const (
 // seconds are the edges of a second, and some about one another.
 var seconds = []int{low, -2, -1, 0, 1, 95, 100, 110, age - 1, age, age + 1, time - 1, time, time + 1, high}
 
-// mute is a control that says nothing, but for what the changes set.
-func mute(changes ...func(*api.Control)) api.Control {
-	c := api.Control{Age: -1, Shared: -1, While: -1, IfError: -1, MinFresh: -1, MaxStale: -1}
-	for _, change := range changes {
-		change(&c)
-	}
-	return c
-}
-
-// blank is a meta of which nothing is known, but for what the changes set.
-func blank(changes ...func(*api.Meta)) api.Meta {
-	m := api.Meta{Control: mute(), Date: -1, Expires: -1, Modified: -1, Age: -1, Asked: -1, Got: -1}
-	for _, change := range changes {
-		change(&m)
-	}
-	return m
-}
+// mute and blank make what says and tells nothing, but for what the changes set.
+var mute, blank = trial.Control, trial.Meta
 
 // times is a meta of which the times of its way are known.
 func times(date, said, asked, got int) api.Meta {

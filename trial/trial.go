@@ -1,7 +1,11 @@
 // Package trial has what the tests of several layers share: texts and lists to try them with. No layer calls it.
 package trial
 
-import "gatepost/api"
+import (
+	"slices"
+
+	"gatepost/api"
+)
 
 // Byte is the text of one byte (string(c) would be a character's).
 func Byte(c int) string { return string([]byte{byte(c)}) }
@@ -98,4 +102,36 @@ func Fields(parts ...string) []api.Field {
 		l = append(l, api.Field{Name: parts[i], Value: parts[i+1]})
 	}
 	return l
+}
+
+// Control is one that says nothing, but for what the changes set.
+func Control(changes ...func(*api.Control)) api.Control {
+	c := api.Control{Age: -1, Shared: -1, While: -1, IfError: -1, MinFresh: -1, MaxStale: -1}
+	for _, change := range changes {
+		change(&c)
+	}
+	return c
+}
+
+// Meta is one of which nothing is known, but for what the changes set.
+func Meta(changes ...func(*api.Meta)) api.Meta {
+	m := api.Meta{Control: Control(), Date: -1, Expires: -1, Modified: -1, Age: -1, Asked: -1, Got: -1}
+	for _, change := range changes {
+		change(&m)
+	}
+	return m
+}
+
+// Untouched hands a list with spare room to a function, and tells whether both read as before,
+// also when what the function tells has been written over, its spare room too.
+func Untouched(l []api.Field, do func([]api.Field) []api.Field) bool {
+	room := append(append(make([]api.Field, 0, len(l)+3), l...), Fields("Spare", "1", "Cache-Control", "no-store", "Pragma", "no-cache")...)
+	before := slices.Clone(room)
+	told := do(room[:len(l)])
+	whole := slices.Equal(room, before)
+	told = told[:cap(told)]
+	for i := range told {
+		told[i] = api.Field{Name: "Written", Value: "over"}
+	}
+	return whole && slices.Equal(room, before)
 }

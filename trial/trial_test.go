@@ -49,3 +49,41 @@ func TestFields(t *testing.T) {
 		t.Error(l)
 	}
 }
+
+func TestControlAndMeta(t *testing.T) {
+	if c := Control(); c != (api.Control{Age: -1, Shared: -1, While: -1, IfError: -1, MinFresh: -1, MaxStale: -1}) {
+		t.Error(c)
+	}
+	if c := Control(func(c *api.Control) { c.Age = 5 }, func(c *api.Control) { c.Must = true }); c != (api.Control{Must: true, Age: 5, Shared: -1, While: -1, IfError: -1, MinFresh: -1, MaxStale: -1}) {
+		t.Error(c)
+	}
+	if m := Meta(); m != (api.Meta{Control: Control(), Date: -1, Expires: -1, Modified: -1, Age: -1, Asked: -1, Got: -1}) {
+		t.Error(m)
+	}
+	if m := Meta(func(m *api.Meta) { m.Code = 200 }, func(m *api.Meta) { m.Tag = "a" }); m != (api.Meta{Code: 200, Control: Control(), Date: -1, Expires: -1, Modified: -1, Age: -1, Asked: -1, Got: -1, Tag: "a"}) {
+		t.Error(m)
+	}
+}
+
+func TestUntouched(t *testing.T) {
+	l := Fields("A", "1", "B", "2")
+	for _, c := range []struct {
+		want bool
+		do   func(l []api.Field) []api.Field
+	}{
+		{true, func([]api.Field) []api.Field { return nil }},
+		{true, slices.Clone[[]api.Field]},
+		{false, func(l []api.Field) []api.Field { return l }},
+		{false, func(l []api.Field) []api.Field { return l[2:] }},
+		{false, func(l []api.Field) []api.Field { return l[:0] }},
+		{false, func(l []api.Field) []api.Field { l[1].Value = "3"; return nil }},
+		{false, func(l []api.Field) []api.Field { return append(l, Fields("C", "3")...)[:0:0] }},
+	} {
+		if got := Untouched(l, c.do); got != c.want {
+			t.Error(got)
+		}
+	}
+	if !Untouched(nil, slices.Clone[[]api.Field]) || !slices.Equal(l, Fields("A", "1", "B", "2")) {
+		t.Error(l)
+	}
+}
