@@ -27,17 +27,6 @@ func others(l []api.Field, names ...string) []api.Field {
 	return left
 }
 
-// values is the plain reading of what Get joins.
-func values(l []api.Field, name string) []string {
-	var found []string
-	for _, f := range l {
-		if trial.Small(f.Name) == trial.Small(name) {
-			found = append(found, f.Value)
-		}
-	}
-	return found
-}
-
 // untouched looks whether a list that is handed to a function reads as before.
 func untouched(t *testing.T, l []api.Field, do func([]api.Field) []api.Field) {
 	t.Helper()
@@ -276,7 +265,7 @@ func TestSet(t *testing.T) {
 func TestGetDelSetOfEveryShortList(t *testing.T) {
 	trial.Lists(trial.Fields("a", "1", "A", "", "b", "2, 3", "B", "4", "ab", "5"), 4, func(l []api.Field) {
 		for _, name := range []string{"a", "A", "b", "Ab", "c"} {
-			found := values(l, name)
+			found := trial.Values(l, name)
 			isGot(t, l, name, strings.Join(found, ", "), len(found))
 			isList(t, "Del", Del(l, name), others(l, name))
 			isList(t, "Set", Set(l, name, "new"), append(others(l, name), api.Field{Name: name, Value: "new"}))
@@ -405,7 +394,7 @@ func TestStripOfEveryShortList(t *testing.T) {
 	of := trial.Fields("Connection", "A, c", "connection", "B", "Connection", "a b", "Te", "a", "a", "1", "B", "2", "C", "3", "d", "Connection")
 	trial.Lists(of, 4, func(l []api.Field) {
 		named := slices.Clone(seven)
-		if text := values(l, "Connection"); !slices.Contains(text, "a b") {
+		if text := trial.Values(l, "Connection"); !slices.Contains(text, "a b") {
 			for _, one := range text {
 				named = append(named, strings.Split(one, ", ")...)
 			}
@@ -462,7 +451,7 @@ func TestGetBehindSet(t *testing.T) {
 				isList(t, "Del behind Set", Del(set, name), others(l, name))
 				for _, other := range []string{"a", "b", "c", "d"} {
 					if other != trial.Small(name) {
-						found := values(l, other)
+						found := trial.Values(l, other)
 						isGot(t, set, other, strings.Join(found, ", "), len(found))
 					}
 				}

@@ -38,16 +38,6 @@ var five = []string{"Content-Length", "Content-Encoding", "Content-Range", "Cont
 // seven are the names that are for one connection alone.
 var seven = []string{"Connection", "Keep-Alive", "Proxy-Connection", "TE", "Trailer", "Transfer-Encoding", "Upgrade"}
 
-// letters are a name as it is, and in other letters' sizes.
-func letters(name string) []string {
-	return []string{name, strings.ToLower(name), strings.ToUpper(name), strings.ToLower(name[:1]) + strings.ToUpper(name[1:])}
-}
-
-// nearly are names that a name is not.
-func nearly(name string) []string {
-	return []string{"", name + " ", " " + name, name + "s", name[1:], name[:len(name)-1], name + "\x00", "X-" + name, strings.ReplaceAll(name, name[:1], "\xff")}
-}
-
 func response(code int, parts ...string) api.Response {
 	return api.Response{Minor: 1, Code: code, Reason: "R", Fields: trial.Fields(parts...)}
 }
@@ -62,25 +52,14 @@ func known(code int, changes ...func(*api.Meta)) api.Meta {
 	return trial.Meta(append([]func(*api.Meta){at}, changes...)...)
 }
 
-// values is the plain reading of what there is of a name, which is told in small letters.
-func values(l []api.Field, name string) []string {
-	var found []string
-	for _, f := range l {
-		if trial.Small(f.Name) == name {
-			found = append(found, f.Value)
-		}
-	}
-	return found
-}
-
 // elements is the plain reading of the elements of a name's text.
 func elements(l []api.Field, name string) ([]string, bool) {
-	return token.Split(strings.Join(values(l, name), ", "))
+	return token.Split(strings.Join(trial.Values(l, name), ", "))
 }
 
 // plainDate is the plain reading of a date's field.
 func plainDate(l []api.Field, name string, wrong int) int {
-	found := values(l, name)
+	found := trial.Values(l, name)
 	if len(found) == 0 {
 		return -1
 	}
@@ -112,7 +91,7 @@ func plainOf(r api.Response, asked, got int) api.Meta {
 	return api.Meta{
 		Code: r.Code, Control: control.Of(r.Fields),
 		Date: plainDate(r.Fields, "date", -1), Expires: plainDate(r.Fields, "expires", 0), Modified: plainDate(r.Fields, "last-modified", -1),
-		Age: plainAge(r.Fields), Asked: asked, Got: got, Tag: strings.Join(values(r.Fields, "etag"), ", "),
+		Age: plainAge(r.Fields), Asked: asked, Got: got, Tag: strings.Join(trial.Values(r.Fields, "etag"), ", "),
 	}
 }
 
@@ -126,16 +105,16 @@ func plainMay(req api.Request, r api.Response) bool {
 	if !good && !(r.Code >= 300 && r.Code <= 599 && r.Code != 304) {
 		return false
 	}
-	if len(values(req.Fields, "range")) > 0 && good && r.Code != 200 && r.Code != 206 {
+	if len(trial.Values(req.Fields, "range")) > 0 && good && r.Code != 200 && r.Code != 206 {
 		return false
 	}
 	if list, ok := elements(r.Fields, "vary"); !ok || slices.Contains(list, "*") {
 		return false
 	}
-	if len(values(req.Fields, "authorization")) > 0 && !says.Public && !says.Must && says.Shared < 0 {
+	if len(trial.Values(req.Fields, "authorization")) > 0 && !says.Public && !says.Must && says.Shared < 0 {
 		return false
 	}
-	return len(values(r.Fields, "expires")) > 0 || says.Public || says.Age >= 0 || says.Shared >= 0 || fresh.Heuristic(r.Code)
+	return len(trial.Values(r.Fields, "expires")) > 0 || says.Public || says.Age >= 0 || says.Shared >= 0 || fresh.Heuristic(r.Code)
 }
 
 // plainFields is a plain reading of the fields of P10.3.
@@ -146,7 +125,7 @@ func plainFields(l, news []api.Field) []api.Field {
 	left := field.Strip(news)
 	var told []api.Field
 	for _, f := range l {
-		if has(five, f.Name) || len(values(left, trial.Small(f.Name))) == 0 {
+		if has(five, f.Name) || len(trial.Values(left, trial.Small(f.Name))) == 0 {
 			told = append(told, f)
 		}
 	}
@@ -264,7 +243,7 @@ var dated = []struct {
 func TestOfDates(t *testing.T) {
 	for _, d := range dated {
 		want := func(sec int) api.Meta { return known(200, func(m *api.Meta) { *d.of(m) = sec }) }
-		for _, name := range letters(d.name) {
+		for _, name := range trial.Letters(d.name) {
 			for _, c := range []struct {
 				text string
 				sec  int
@@ -279,7 +258,7 @@ func TestOfDates(t *testing.T) {
 				is(t, response(200, name, c.text), 3, 5, want(c.sec))
 				is(t, response(200, "X", first, name, c.text, "Y", later), 3, 5, want(c.sec))
 			}
-			for _, other := range letters(d.name) {
+			for _, other := range trial.Letters(d.name) {
 				is(t, response(200, name, first, other, first), 3, 5, want(d.wrong))
 				is(t, response(200, name, first, "X", "1", other, later), 3, 5, want(d.wrong))
 				is(t, response(200, name, first, other, ""), 3, 5, want(d.wrong))
@@ -290,7 +269,7 @@ func TestOfDates(t *testing.T) {
 				is(t, response(200, name, first, other, first, name, first), 3, 5, want(d.wrong))
 			}
 		}
-		for _, name := range nearly(d.name) {
+		for _, name := range trial.Nearly(d.name) {
 			is(t, response(200, name, first), 3, 5, want(-1))
 			is(t, response(200, name, "never"), 3, 5, want(-1))
 			is(t, response(200, name, "never", d.name, first, name, later), 3, 5, want(second))
@@ -314,15 +293,15 @@ func TestOfAge(t *testing.T) {
 		{[]string{"5", "x"}, 5}, {[]string{"5", `"`}, -1}, {[]string{`"`, `"`, "5"}, -1}, {[]string{`5, "`, `"`}, 5}, {[]string{"1", "2", "3"}, 1},
 	} {
 		want := known(200, func(m *api.Meta) { m.Age = c.want })
-		for i := range letters("Age") {
+		for i := range trial.Letters("Age") {
 			parts := []string{"X", "8"}
 			for k, text := range c.texts {
-				parts = append(parts, letters("Age")[(i+k)%4], text, "Y", "9")
+				parts = append(parts, trial.Letters("Age")[(i+k)%4], text, "Y", "9")
 			}
 			is(t, response(200, parts...), 3, 5, want)
 		}
 	}
-	for _, name := range nearly("Age") {
+	for _, name := range trial.Nearly("Age") {
 		is(t, response(200, name, "5"), 3, 5, known(200))
 		is(t, response(200, name, `"`, "Age", "5", name, `"`), 3, 5, known(200, func(m *api.Meta) { m.Age = 5 }))
 	}
@@ -337,15 +316,15 @@ func TestOfTag(t *testing.T) {
 		{[]string{`"a"`, `"b"`}, `"a", "b"`}, {[]string{`"a"`, `"a"`}, `"a", "a"`}, {[]string{"", ""}, ", "}, {[]string{"a", "", "b"}, "a, , b"}, {[]string{"*"}, "*"},
 	} {
 		want := known(200, func(m *api.Meta) { m.Tag = c.want })
-		for i := range letters("ETag") {
+		for i := range trial.Letters("ETag") {
 			parts := []string{"X", `"x"`}
 			for k, text := range c.texts {
-				parts = append(parts, letters("ETag")[(i+k)%4], text, "Y", `"y"`)
+				parts = append(parts, trial.Letters("ETag")[(i+k)%4], text, "Y", `"y"`)
 			}
 			is(t, response(200, parts...), 3, 5, want)
 		}
 	}
-	for _, name := range nearly("ETag") {
+	for _, name := range trial.Nearly("ETag") {
 		is(t, response(200, name, `"a"`), 3, 5, known(200))
 	}
 }
@@ -354,7 +333,7 @@ func TestOfControl(t *testing.T) {
 	set := func(change func(*api.Control)) api.Meta {
 		return known(200, func(m *api.Meta) { change(&m.Control) })
 	}
-	for _, name := range letters("Cache-Control") {
+	for _, name := range trial.Letters("Cache-Control") {
 		is(t, response(200, name, "max-age=5, private, no-cache=x"), 3, 5, set(func(c *api.Control) { c.Age, c.Private, c.NoCache = 5, true, true }))
 		is(t, response(200, name, "max-age=5", "Cache-Control", "s-maxage=4"), 3, 5, set(func(c *api.Control) { c.Age, c.Shared = 5, 4 }))
 		is(t, response(200, name, `max-age=5, x="`), 3, 5, set(func(c *api.Control) { c.NoStore, c.NoCache = true, true }))
@@ -396,7 +375,7 @@ func TestMayByMethod(t *testing.T) {
 }
 
 func TestMayByControls(t *testing.T) {
-	for _, name := range letters("Cache-Control") {
+	for _, name := range trial.Letters("Cache-Control") {
 		for text, kept := range map[string]bool{
 			"": true, "no-store": false, "NO-STORE": false, "no-store=x": false, `no-store="a, b"`: false, "x, no-store": false, "public, no-store, max-age=5": false,
 			`x="no-store"`: true, `"no-store"`: true, "no-stores": true, "no-stor": true, "no store": true, `x="`: false, `public, "a\"`: false, `"`: false,
@@ -416,7 +395,7 @@ func TestMayByControls(t *testing.T) {
 	}
 	may(t, get("Pragma", "no-cache"), response(200, "Pragma", "no-cache"), true)
 	may(t, get("Pragma", "no-store"), response(200, "Pragma", "no-store, private"), true)
-	for _, name := range nearly("Cache-Control") {
+	for _, name := range trial.Nearly("Cache-Control") {
 		may(t, get(name, "no-store"), response(200, name, "no-store, private"), true)
 	}
 }
@@ -447,7 +426,7 @@ func TestMayByCode(t *testing.T) {
 }
 
 func TestMayByRange(t *testing.T) {
-	for _, name := range letters("Range") {
+	for _, name := range trial.Letters("Range") {
 		for _, value := range []string{"bytes=0-1", "", "x", "none", "\x00"} {
 			for code, kept := range map[int]bool{199: false, 200: true, 201: false, 202: false, 203: false, 204: false, 205: false, 206: true, 207: false, 226: false, 298: false, 299: false, 300: true, 301: true, 302: true, 303: true, 304: false, 305: true, 404: true, 416: true, 500: true, 599: true, 600: false} {
 				may(t, get(name, value), response(code, "Cache-Control", "public"), kept)
@@ -455,14 +434,14 @@ func TestMayByRange(t *testing.T) {
 			}
 		}
 	}
-	for _, name := range append(nearly("Range"), "If-Range", "Content-Range") {
+	for _, name := range append(trial.Nearly("Range"), "If-Range", "Content-Range") {
 		may(t, get(name, "bytes=0-1"), response(201, "Cache-Control", "public"), true)
 	}
 	may(t, get(), response(201, "Cache-Control", "public", "Range", "bytes=0-1", "Content-Range", "bytes 0-1/2"), true) // of the request alone
 }
 
 func TestMayByVary(t *testing.T) {
-	for i := range letters("Vary") {
+	for i := range trial.Letters("Vary") {
 		for _, c := range []struct {
 			texts []string
 			kept  bool
@@ -476,20 +455,20 @@ func TestMayByVary(t *testing.T) {
 		} {
 			parts := []string{"Cache-Control", "public"}
 			for k, text := range c.texts {
-				parts = append(parts, letters("Vary")[(i+k)%4], text, "X", "*")
+				parts = append(parts, trial.Letters("Vary")[(i+k)%4], text, "X", "*")
 			}
 			may(t, get(), response(200, parts...), c.kept)
 			may(t, get(), response(200, parts[2:]...), c.kept)
 			may(t, get(parts[2:]...), response(200), true) // of the response alone
 		}
 	}
-	for _, name := range nearly("Vary") {
+	for _, name := range trial.Nearly("Vary") {
 		may(t, get(), response(200, name, "*"), true)
 	}
 }
 
 func TestMayByAuthorization(t *testing.T) {
-	for _, name := range letters("Authorization") {
+	for _, name := range trial.Letters("Authorization") {
 		for _, value := range []string{"Basic YQ==", "", "\x00"} {
 			for text, kept := range map[string]bool{
 				"": false, "x": false, "max-age=5": false, "proxy-revalidate": false, "no-cache": false, "stale-while-revalidate=5": false, "stale-if-error=5": false, "only-if-cached": false, "min-fresh=5, max-stale=5": false,
@@ -507,7 +486,7 @@ func TestMayByAuthorization(t *testing.T) {
 			may(t, get(), response(200, name, value), true)
 		}
 	}
-	for _, name := range append(nearly("Authorization"), "Proxy-Authorization", "WWW-Authenticate") {
+	for _, name := range append(trial.Nearly("Authorization"), "Proxy-Authorization", "WWW-Authenticate") {
 		may(t, get(name, "x"), response(200), true)
 	}
 	may(t, get("Authorization", "x"), response(403, "Cache-Control", "must-revalidate"), false) // open to all, and nothing says that it may be kept
@@ -518,7 +497,7 @@ func TestMayByWhatSaysHowLong(t *testing.T) {
 	for _, code := range []int{201, 202, 205, 299, 302, 303, 307, 400, 403, 500, 503, 599} {
 		may(t, get(), response(code), false)
 		may(t, get(), api.Response{Code: code, Fields: []api.Field{}}, false)
-		for _, name := range letters("Expires") {
+		for _, name := range trial.Letters("Expires") {
 			for _, text := range []string{first, "0", "", "never", "\x00", "Thu, 01 Jan 1970 00:00:00 GMT"} {
 				may(t, get(), response(code, name, text), true)
 				may(t, get(), response(code, "X", "1", name, text, "Expires", text), true)
@@ -531,7 +510,7 @@ func TestMayByWhatSaysHowLong(t *testing.T) {
 			may(t, get(), response(code, "Cache-Control", text), false)
 			may(t, get(), response(404, "Cache-Control", text), true)
 		}
-		for _, name := range append(nearly("Expires"), "Date", "Last-Modified", "Age", "ETag") {
+		for _, name := range append(trial.Nearly("Expires"), "Date", "Last-Modified", "Age", "ETag") {
 			may(t, get(), response(code, name, first), false)
 		}
 		may(t, get(), response(code, "Date", first, "Last-Modified", first, "Age", "5", "ETag", "a", "Pragma", "no-cache"), false)
@@ -608,8 +587,8 @@ func TestRefresh(t *testing.T) {
 
 func TestRefreshLeavesWhatSpeaksOfTheBody(t *testing.T) {
 	for _, plain := range five {
-		for _, name := range letters(plain) {
-			for _, other := range letters(plain) {
+		for _, name := range trial.Letters(plain) {
+			for _, other := range trial.Letters(plain) {
 				refreshed(t, trial.Fields("A", "1", name, "2", "B", "3"), nil, trial.Fields("A", "1", name, "2", "B", "3"))
 				refreshed(t, trial.Fields("A", "1", name, "2", "B", "3"), trial.Fields("C", "4"), trial.Fields("A", "1", name, "2", "B", "3", "C", "4"))
 				refreshed(t, trial.Fields("A", "1"), trial.Fields(name, "2", "A", "3", other, "4"), trial.Fields("A", "3"))
@@ -618,7 +597,7 @@ func TestRefreshLeavesWhatSpeaksOfTheBody(t *testing.T) {
 				refreshed(t, trial.Fields("A", "1", name, "2", "B", "3", other, ""), trial.Fields("B", "4", other, "5", "C", "6", name, "7"), trial.Fields("A", "1", name, "2", other, "", "B", "4", "C", "6"))
 			}
 		}
-		for _, name := range nearly(plain) {
+		for _, name := range trial.Nearly(plain) {
 			refreshed(t, trial.Fields("A", "1", name, "2"), trial.Fields(name, "4"), trial.Fields("A", "1", name, "4"))
 		}
 	}
@@ -629,12 +608,12 @@ func TestRefreshLeavesWhatSpeaksOfTheBody(t *testing.T) {
 
 func TestRefreshLeavesWhatIsForOneConnection(t *testing.T) {
 	for _, plain := range seven {
-		for _, name := range letters(plain) {
+		for _, name := range trial.Letters(plain) {
 			refreshed(t, trial.Fields("A", "1", plain, "2"), trial.Fields(name, "x", "B", "4"), trial.Fields("A", "1", plain, "2", "B", "4"))
 			refreshed(t, trial.Fields("A", "1"), trial.Fields(name, "x", "B", "4"), trial.Fields("A", "1", "B", "4"))
 		}
 	}
-	for _, connection := range letters("Connection") {
+	for _, connection := range trial.Letters("Connection") {
 		refreshed(t, trial.Fields("X", "1", "Y", "2"), trial.Fields(connection, "close, X", "x", "3", "y", "4"), trial.Fields("X", "1", "y", "4"))
 		refreshed(t, trial.Fields("X", "1", "Y", "2"), trial.Fields("x", "3", "y", "4", connection, "X", connection, "y"), trial.Fields("X", "1", "Y", "2"))
 		refreshed(t, trial.Fields("X", "1"), trial.Fields("x", "3", connection, "X, a b"), trial.Fields("x", "3")) // names that are none
@@ -707,7 +686,7 @@ func TestNeverAndAlways(t *testing.T) {
 		req := api.Request{Method: "GET", Fields: asks}
 		bars := control.Of(asks).NoStore
 		trial.Lists(answers, 2, func(says []api.Field) {
-			quoted := strings.Contains(strings.Join(values(says, "vary"), ""), `"`) // it may have a * within
+			quoted := strings.Contains(strings.Join(trial.Values(says, "vary"), ""), `"`) // it may have a * within
 			for _, never := range nevers {
 				for _, l := range [][]api.Field{append([]api.Field{never}, says...), append(slices.Clone(says), never)} {
 					if !(quoted && trial.Small(never.Name) == "vary") && May(req, api.Response{Code: 200, Fields: l}) {
@@ -720,7 +699,7 @@ func TestNeverAndAlways(t *testing.T) {
 				c := control.Of(r.Fields)
 				list, ok := elements(r.Fields, "vary")
 				bars := bars || c.NoStore || c.Private || !ok || slices.Contains(list, "*")
-				parts := len(values(asks, "range")) > 0 && code > 200 && code < 300 && code != 206
+				parts := len(trial.Values(asks, "range")) > 0 && code > 200 && code < 300 && code != 206
 				if want := !bars && !parts && code >= 200 && code <= 599 && code != 304; May(req, r) != want {
 					t.Fatalf("to %q a %d with %q: %v", asks, code, r.Fields, !want)
 				}

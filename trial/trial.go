@@ -3,6 +3,7 @@ package trial
 
 import (
 	"slices"
+	"strings"
 
 	"gatepost/api"
 )
@@ -102,6 +103,27 @@ func Fields(parts ...string) []api.Field {
 		l = append(l, api.Field{Name: parts[i], Value: parts[i+1]})
 	}
 	return l
+}
+
+// Values is the plain reading of what the fields of a name hold.
+func Values(l []api.Field, name string) []string {
+	var found []string
+	for _, f := range l {
+		if Small(f.Name) == Small(name) {
+			found = append(found, f.Value)
+		}
+	}
+	return found
+}
+
+// Letters are a name as it is, and in other letters' sizes.
+func Letters(name string) []string {
+	return []string{name, strings.ToLower(name), strings.ToUpper(name), strings.ToLower(name[:1]) + strings.ToUpper(name[1:])}
+}
+
+// Nearly are names that a name is not.
+func Nearly(name string) []string {
+	return []string{"", name + " ", " " + name, name + "s", name[1:], name[:len(name)-1], name + "\x00", "X-" + name, strings.ReplaceAll(name, name[:1], "\xff")}
 }
 
 // Control is one that says nothing, but for what the changes set.

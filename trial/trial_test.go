@@ -50,6 +50,21 @@ func TestFields(t *testing.T) {
 	}
 }
 
+func TestNames(t *testing.T) {
+	l := Fields("A-b", "1", "x", "2", "a-B", "", "A-b ", "3", "\xc1-b", "4", "A-B", "1")
+	for name, want := range map[string][]string{"a-b": {"1", "", "1"}, "A-b": {"1", "", "1"}, "X": {"2"}, "": nil, "a": nil} {
+		if got := Values(l, name); !slices.Equal(got, want) {
+			t.Errorf("%q: %q, not %q", name, got, want)
+		}
+	}
+	if l := Letters("Ab-Cd"); !slices.Equal(l, []string{"Ab-Cd", "ab-cd", "AB-CD", "aB-CD"}) {
+		t.Errorf("%q", l)
+	}
+	if l := Nearly("Aba"); !slices.Equal(l, []string{"", "Aba ", " Aba", "Abas", "ba", "Ab", "Aba\x00", "X-Aba", "\xffba"}) {
+		t.Errorf("%q", l)
+	}
+}
+
 func TestControlAndMeta(t *testing.T) {
 	if c := Control(); c != (api.Control{Age: -1, Shared: -1, While: -1, IfError: -1, MinFresh: -1, MaxStale: -1}) {
 		t.Error(c)
