@@ -147,7 +147,7 @@ func Meta(changes ...func(*api.Meta)) api.Meta {
 // Untouched hands a list with spare room to a function, and tells whether both read as before,
 // also when what the function tells has been written over, its spare room too.
 func Untouched(l []api.Field, do func([]api.Field) []api.Field) bool {
-	room := append(append(make([]api.Field, 0, len(l)+4), l...), Fields("Spare", "1", "Cache-Control", "no-store", "Pragma", "no-cache", "Vary", "*")...)
+	room := append(append(make([]api.Field, 0, len(l)+7), l...), Fields("Spare", "1", "Cache-Control", "no-store", "Pragma", "no-cache", "Vary", "*", "If-None-Match", "*", "Range", "", "If-Range", "")...)
 	before := slices.Clone(room)
 	told := do(room[:len(l)])
 	whole := slices.Equal(room, before)
