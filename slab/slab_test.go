@@ -231,15 +231,6 @@ func (b *both) each(h Handle) {
 	}
 }
 
-// text is so many bytes, none of them 0, that differ from those of another seed.
-func text(n, seed int) string {
-	s := make([]byte, n)
-	for i := range s {
-		s[i] = byte(1 + (i*7+seed*31)%255)
-	}
-	return string(s)
-}
-
 // P15.1: the sizes of blocks, and how many there may be.
 
 func TestSizes(t *testing.T) {
@@ -474,7 +465,7 @@ func TestAllocClears(t *testing.T) {
 			if a.Held(h) != 1 || a.Held(Handle{class, 0, gen}) != 1 {
 				t.Error(h, a.Held(h))
 			}
-			if e := a.Write(h, 0, []byte(text(size, gen))); e != 0 {
+			if e := a.Write(h, 0, []byte(trial.Text(size, gen))); e != 0 {
 				t.Error(e)
 			}
 			for range gen {
@@ -513,15 +504,15 @@ func TestNone(t *testing.T) {
 func mixed(t *testing.T) *both {
 	b := pair(t, [4]int{5, 0, 1, 4})
 	for seed := range 4 {
-		b.write(b.alloc(9), 0, text(64, seed))
-		b.write(b.alloc(4096), 0, text(4096, seed))
+		b.write(b.alloc(9), 0, trial.Text(64, seed))
+		b.write(b.alloc(4096), 0, trial.Text(4096, seed))
 	}
-	b.write(b.alloc(1000), 5, text(900, 9))
+	b.write(b.alloc(1000), 5, trial.Text(900, 9))
 	for gen := 1; gen < 4; gen++ { // the second one is of its generation 4 then
 		b.drop(Handle{0, 1, gen})
 		b.drop(Handle{3, 1, gen})
-		b.write(b.alloc(0), 3, text(60, gen+20))
-		b.write(b.alloc(2000), 3, text(2000, gen+20))
+		b.write(b.alloc(0), 3, trial.Text(60, gen+20))
+		b.write(b.alloc(2000), 3, trial.Text(2000, gen+20))
 	}
 	b.hold(Handle{3, 1, 4})
 	b.drop(Handle{0, 2, 1}) // the third one isn't in use any more; the fifth one never was
@@ -562,14 +553,14 @@ func TestStale(t *testing.T) {
 		var old []Handle
 		for gen := 1; gen < 300; gen++ {
 			h, _ := a.Alloc(size)
-			a.Write(h, 0, []byte(text(size, gen)))
+			a.Write(h, 0, []byte(trial.Text(size, gen)))
 			for _, h := range append(old, Handle{class, 0, 0}, Handle{class, 0, gen + 1}, Handle{class, 1, 0}, Handle{class, 1, gen}, Handle{class, 0, -gen}, Handle{class ^ 1, 0, gen}) {
 				b, e := a.Read(h, 0, 1)
 				if a.Hold(h) != 15 || a.Drop(h) != 15 || a.Write(h, 0, []byte("x")) != 15 || len(b) != 0 || e != 15 || a.Held(h) != 0 {
 					t.Fatal(class, gen, h)
 				}
 			}
-			if b, e := a.Read(h, 0, size); string(b) != text(size, gen) || e != 0 || a.Held(h) != 1 || a.Live(class) != 1 {
+			if b, e := a.Read(h, 0, size); string(b) != trial.Text(size, gen) || e != 0 || a.Held(h) != 1 || a.Live(class) != 1 {
 				t.Error(class, gen, e)
 			}
 			a.Drop(h)
@@ -622,7 +613,7 @@ func TestDrop(t *testing.T) {
 			b := pair(t, [4]int{1, 2, 3, 4})
 			h := b.alloc(size)
 			other := b.alloc(size)
-			b.write(h, 0, text(size, 3))
+			b.write(h, 0, trial.Text(size, 3))
 			for range holds {
 				b.hold(h)
 				b.all()
@@ -655,13 +646,13 @@ func edges(size int) []int {
 func TestWrite(t *testing.T) {
 	for class, size := range told {
 		b := pair(t, [4]int{2, 2, 2, 2})
-		b.write(b.alloc(size), 0, text(size, 1))
+		b.write(b.alloc(size), 0, trial.Text(size, 1))
 		h := b.alloc(size)
-		b.write(h, 0, text(size, 2))
+		b.write(h, 0, trial.Text(size, 2))
 		for seed, at := range edges(size) {
 			for _, n := range []int{0, 1, 2, 7, size / 2, size - at - 1, size - at, size - at + 1, size - 1, size, size + 1, size + 64, 2 * size, 5000} {
 				if n >= 0 && n <= 5000 {
-					b.write(h, at, text(n, seed+n))
+					b.write(h, at, trial.Text(n, seed+n))
 					b.all()
 				}
 			}
@@ -670,7 +661,7 @@ func TestWrite(t *testing.T) {
 			at, n int
 			e     api.Errno
 		}{{-1, 0, 2}, {-1, 1, 2}, {-1, size, 2}, {0, 0, 0}, {0, size, 0}, {0, size + 1, 2}, {1, size - 1, 0}, {1, size, 2}, {size - 1, 0, 0}, {size - 1, 1, 0}, {size - 1, 2, 2}, {size, 0, 0}, {size, 1, 2}, {size + 1, 0, 2}, {high, 0, 2}, {high, 1, 2}, {high, size, 2}, {low, 0, 2}, {low, 1, 2}, {low, size, 2}} {
-			if e := b.a.Write(h, c.at, []byte(text(c.n, 5))); e != c.e {
+			if e := b.a.Write(h, c.at, []byte(trial.Text(c.n, 5))); e != c.e {
 				t.Errorf("class %d: Write of %d bytes at %d: %d", class, c.n, c.at, e)
 			}
 		}
@@ -682,7 +673,7 @@ func TestWriteNothing(t *testing.T) {
 	for _, size := range told {
 		a := arena(t, [4]int{1, 1, 1, 1})
 		h, _ := a.Alloc(size)
-		a.Write(h, 0, []byte(text(size, 1)))
+		a.Write(h, 0, []byte(trial.Text(size, 1)))
 		for _, nothing := range [][]byte{nil, {}, make([]byte, 0, 99)} {
 			for _, at := range edges(size) {
 				want := api.Errno(2)
@@ -693,7 +684,7 @@ func TestWriteNothing(t *testing.T) {
 					t.Error(size, at, e)
 				}
 			}
-			if b, _ := a.Read(h, 0, size); string(b) != text(size, 1) {
+			if b, _ := a.Read(h, 0, size); string(b) != trial.Text(size, 1) {
 				t.Errorf("%q", b)
 			}
 		}
@@ -704,9 +695,9 @@ func TestWriteNothing(t *testing.T) {
 func TestRead(t *testing.T) {
 	for class, size := range told {
 		b := pair(t, [4]int{2, 2, 2, 2})
-		b.write(b.alloc(size), 0, text(size, 1))
+		b.write(b.alloc(size), 0, trial.Text(size, 1))
 		h := b.alloc(size)
-		b.write(h, 0, text(size, 2))
+		b.write(h, 0, trial.Text(size, 2))
 		for _, at := range edges(size) {
 			for _, n := range edges(size) {
 				b.read(h, at, n)
@@ -721,7 +712,7 @@ func TestRead(t *testing.T) {
 			e     api.Errno
 		}{{-1, 0, 2}, {-1, 1, 2}, {0, -1, 2}, {1, -1, 2}, {size, -1, 2}, {size + 1, -1, 2}, {0, 0, 0}, {0, size, 0}, {0, size + 1, 2}, {1, size - 1, 0}, {1, size, 2}, {size - 1, 1, 0}, {size - 1, 2, 2}, {size, 0, 0}, {size, 1, 2}, {size + 1, 0, 2}, {high, 0, 2}, {0, high, 2}, {1, high, 2}, {high, high, 2}, {high, 1, 2}, {low, 0, 2}, {low, low, 2}, {0, low, 2}, {low, high, 2}, {high, low, 2}} {
 			got, e := b.a.Read(h, c.at, c.n)
-			if e != c.e || e != 0 && len(got) != 0 || e == 0 && string(got) != text(size, 2)[c.at:c.at+c.n] {
+			if e != c.e || e != 0 && len(got) != 0 || e == 0 && string(got) != trial.Text(size, 2)[c.at:c.at+c.n] {
 				t.Errorf("class %d: Read of %d bytes at %d: %q %d", class, c.n, c.at, got, e)
 			}
 		}
@@ -823,14 +814,14 @@ func TestWrittenIsRead(t *testing.T) {
 	b := pair(t, [4]int{3, 3, 3, 3})
 	for seed := range 3 {
 		for _, size := range told {
-			b.write(b.alloc(size), 0, text(size, seed))
+			b.write(b.alloc(size), 0, trial.Text(size, seed))
 		}
 	}
 	b.all()
 	for seed, h := range slices.Clone(b.handles) {
 		size := told[h.Class]
 		for _, at := range []int{0, 1, size / 2, size - 9, size - 1} {
-			b.write(h, at, text(min(9, size-at), seed+at))
+			b.write(h, at, trial.Text(min(9, size-at), seed+at))
 			b.all()
 		}
 		b.hold(h)
@@ -914,7 +905,7 @@ func (b *both) step(chance *rand.Rand) {
 	case 3, 4:
 		b.drop(h)
 	case 5, 6:
-		b.write(h, at, text(n, chance.Intn(250)))
+		b.write(h, at, trial.Text(n, chance.Intn(250)))
 	case 7:
 		b.read(h, at, n)
 		b.read(h, at, ints[chance.Intn(len(ints))])
@@ -975,7 +966,7 @@ func TestAnyInts(t *testing.T) {
 	for i := range 60000 {
 		h := Handle{wild(), wild(), wild()}
 		b.read(h, wild(), wild())
-		b.write(h, wild(), text(chance.Intn(3), i))
+		b.write(h, wild(), trial.Text(chance.Intn(3), i))
 		b.each(h)
 		b.alloc(wild())
 		is(b, b.a.Live(h.Index), b.p.live(h.Index), "Live(%d)", h.Index)
@@ -996,7 +987,7 @@ func TestLongBytes(t *testing.T) {
 	for _, size := range told {
 		a := arena(t, [4]int{1, 1, 1, 1})
 		h, _ := a.Alloc(size)
-		a.Write(h, 0, []byte(text(size, 1)))
+		a.Write(h, 0, []byte(trial.Text(size, 1)))
 		for _, n := range []int{size + 1, 4097, 1 << 20, 1 << 21} {
 			for _, at := range append(ints, size) {
 				if e := a.Write(h, at, long[:n]); e != 2 {
@@ -1004,7 +995,7 @@ func TestLongBytes(t *testing.T) {
 				}
 			}
 		}
-		if b, _ := a.Read(h, 0, size); string(b) != text(size, 1) {
+		if b, _ := a.Read(h, 0, size); string(b) != trial.Text(size, 1) {
 			t.Errorf("%q", b)
 		}
 	}
@@ -1018,14 +1009,14 @@ func TestReadIsNew(t *testing.T) {
 		a := arena(t, [4]int{2, 2, 2, 2})
 		h, _ := a.Alloc(size)
 		behind, _ := a.Alloc(size)
-		a.Write(behind, 0, []byte(text(size, 8)))
-		a.Write(h, 0, []byte(text(size, 1)))
+		a.Write(behind, 0, []byte(trial.Text(size, 8)))
+		a.Write(h, 0, []byte(trial.Text(size, 1)))
 		for _, part := range [][2]int{{0, size}, {0, 1}, {1, size - 1}, {size - 1, 1}, {size / 2, 5}, {0, 0}, {3, 0}, {size, 0}} {
 			at, n := part[0], part[1]
-			want := text(size, 1)[at : at+n]
+			want := trial.Text(size, 1)[at : at+n]
 			first, _ := a.Read(h, at, n)
 			second, _ := a.Read(h, at, n)
-			a.Write(h, 0, []byte(text(size, 2)))
+			a.Write(h, 0, []byte(trial.Text(size, 2)))
 			if string(first) != want {
 				t.Error("written:", class, part)
 			}
@@ -1034,7 +1025,7 @@ func TestReadIsNew(t *testing.T) {
 				t.Error("let go:", class, part)
 			}
 			h, _ = a.Alloc(size)
-			a.Write(h, 0, []byte(text(size, 1)))
+			a.Write(h, 0, []byte(trial.Text(size, 1)))
 			if string(first) != want || string(second) != want {
 				t.Error("taken anew:", class, part)
 			}
@@ -1044,7 +1035,7 @@ func TestReadIsNew(t *testing.T) {
 			}
 			own, _ := a.Read(h, 0, size)
 			next, _ := a.Read(behind, 0, size)
-			if string(second) != want || string(own) != text(size, 1) || string(next) != text(size, 8) {
+			if string(second) != want || string(own) != trial.Text(size, 1) || string(next) != trial.Text(size, 8) {
 				t.Error("written over:", class, part)
 			}
 		}
@@ -1057,9 +1048,9 @@ func TestWriteKeepsNothing(t *testing.T) {
 		for _, n := range []int{0, 1, 9, size - 1, size, size + 1} {
 			a := arena(t, [4]int{2, 2, 2, 2})
 			h, _ := a.Alloc(size)
-			room := []byte(text(n+size, 4))
+			room := []byte(trial.Text(n+size, 4))
 			e := a.Write(h, 0, room[:n])
-			if (e != 0) != (n > size) || string(room) != text(n+size, 4) {
+			if (e != 0) != (n > size) || string(room) != trial.Text(n+size, 4) {
 				t.Error(class, n, e)
 			}
 			for i := range room {
@@ -1067,7 +1058,7 @@ func TestWriteKeepsNothing(t *testing.T) {
 			}
 			want := make([]byte, size)
 			if e == 0 {
-				copy(want, text(n+size, 4)[:n])
+				copy(want, trial.Text(n+size, 4)[:n])
 			}
 			if b, e := a.Read(h, 0, size); !bytes.Equal(b, want) || e != 0 {
 				t.Error(class, n, e)

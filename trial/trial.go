@@ -40,6 +40,15 @@ func Small(s string) string {
 	return string(b)
 }
 
+// Text is so many bytes, none of them 0, that differ from those of another seed.
+func Text(n, seed int) string {
+	s := make([]byte, n)
+	for i := range s {
+		s[i] = byte(1 + (i*7+seed*31)%255)
+	}
+	return string(s)
+}
+
 // Changed hands a text to a function, and each that has one byte changed, added or taken away.
 func Changed(s string, see func(string)) {
 	see(s)

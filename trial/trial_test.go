@@ -19,6 +19,19 @@ func TestBytes(t *testing.T) {
 	}
 }
 
+func TestText(t *testing.T) {
+	if s := Text(3, 0) + Text(2, 1) + Text(0, 9); s != "\x01\x08\x0f\x20\x27" {
+		t.Errorf("%q", s)
+	}
+	for seed := range 255 {
+		for i, c := range []byte(Text(300, seed)) {
+			if c == 0 || c == Text(300, seed+1)[i] {
+				t.Error(seed, i, c)
+			}
+		}
+	}
+}
+
 func TestChanged(t *testing.T) {
 	seen := map[string]int{}
 	Changed("ab", func(s string) { seen[s]++ })
